@@ -166,6 +166,9 @@ func (m *maker) block(fn *api.Func, b int, succ [][]int, known []string) []strin
 			code = append(code, x)
 		}
 	}
+	if b == 0 {
+		code = append(code, m.first(fn.Name, define)...)
+	}
 	for range m.dice.Below(m.shape.Code + 1) {
 		operand := func() string { return m.operand(append(append([]string{}, known...), own...)) }
 		code = append(code, m.instr(operand, define))
@@ -186,6 +189,22 @@ func (m *maker) block(fn *api.Func, b int, succ [][]int, known []string) []strin
 	}
 	fn.Blocks[b].Code = append(code, end)
 	return own
+}
+
+// first is what an entry begins with, so that there is something to point to: more of it in main, which all runs go through.
+func (m *maker) first(name string, define func() string) []api.Instr {
+	n := m.dice.Below(2)
+	if name == "main" {
+		n = 1 + m.dice.Below(3)
+	}
+	var code []api.Instr
+	for range n {
+		code = append(code, api.Instr{Op: api.Alloca, Dst: define(), N: 1 + m.dice.Below(m.shape.Fields)})
+	}
+	if m.dice.Below(2) == 0 {
+		code = append(code, api.Instr{Op: api.Addr, Dst: define(), Fn: m.funcs[m.dice.Below(len(m.funcs))].Name})
+	}
+	return code
 }
 
 // operand is one of the variables that are known, late ones rather than early ones, or null.
