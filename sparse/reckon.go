@@ -6,8 +6,8 @@ import (
 	"gnomon/update"
 )
 
-// reckoning tells a node's set by those of the others.
-type reckoning func(s *stage, i int) *bits.Set
+// reckoning puts into a node's set what those of the others let it have. All sets only grow, and so does what follows from them: what was put in once need not be asked again.
+type reckoning func(s *stage, i int)
 
 // reckonings tells how each kind of node is reckoned.
 func reckonings() map[uint8]reckoning {
@@ -22,54 +22,64 @@ func reckonings() map[uint8]reckoning {
 	}
 }
 
-// together are the things of some sets.
-func together(sets ...*bits.Set) *bits.Set {
-	out := bits.Of()
-	for _, s := range sets {
-		out.Union(s)
+// put puts sets together into a node's.
+func (s *stage) put(i int, sets ...*bits.Set) {
+	for _, x := range sets {
+		s.sets[i].Union(x)
 	}
-	return out
+}
+
+// grown are the sets that have grown since they were asked for a node: of the nodes from which edges lead to it, those that count.
+func (s *stage) grown(i int, counts func(from int) bool) []*bits.Set {
+	var l []*bits.Set
+	for k, from := range s.ahead[i] {
+		if n := s.sets[from].Len(); n > s.asked[i][k] && counts(from) {
+			s.asked[i][k] = n
+			l = append(l, s.sets[from])
+		}
+	}
+	return l
 }
 
 // ofAhead is what the nodes have from which edges lead.
-func (s *stage) ofAhead(i int) *bits.Set {
-	var l []*bits.Set
-	for _, from := range s.ahead[i] {
-		l = append(l, s.sets[from])
-	}
-	return together(l...)
+func (s *stage) ofAhead(i int) {
+	s.put(i, s.grown(i, func(int) bool { return true })...)
 }
 
-// ofLinks is what comes by the links of calls that are entered.
-func (s *stage) ofLinks(i int) *bits.Set {
+// ofLinks is what comes by the links of calls that are entered. Whether they are is asked ahead of the first that is put in: a call may be by the very variable that it gives something to.
+func (s *stage) ofLinks(i int) {
 	var l []*bits.Set
-	for _, w := range s.in[i] {
-		if s.enters(w.call, w.fn) {
+	in := s.in[i]
+	for k, w := range in {
+		if n := s.sets[w.node].Len(); n > w.asked && s.enters(w.call, w.fn) {
+			in[k].asked = n
 			l = append(l, s.sets[w.node])
 		}
 	}
-	return together(l...)
+	s.put(i, l...)
 }
 
 // ofVar is for variables; one that no instruction defines is a parameter.
-func (s *stage) ofVar(i int) *bits.Set {
+func (s *stage) ofVar(i int) {
 	x := s.defs[i]
 	switch x.Op {
 	case api.Alloca, api.Malloc:
-		return bits.Of(s.bases[i])
+		s.put(i, bits.Of(s.bases[i]))
 	case api.Null:
-		return bits.Of()
 	case api.Addr:
 		f, _ := s.sites.Func(x.Fn)
-		return bits.Of(s.sites.FuncObj(f))
+		s.put(i, bits.Of(s.sites.FuncObj(f)))
 	case api.Copy, api.Phi:
-		return s.ofAhead(i)
+		s.ofAhead(i)
 	case api.Field:
-		return s.further(s.ofAhead(i), x.N)
+		for _, from := range s.grown(i, func(int) bool { return true }) {
+			s.put(i, s.further(from, x.N))
+		}
 	case api.Load:
-		return s.loaded(i)
+		s.ofLoad(i)
+	default:
+		s.ofLinks(i)
 	}
-	return s.ofLinks(i)
 }
 
 // further are the fields so many further on.
@@ -83,21 +93,15 @@ func (s *stage) further(things *bits.Set, k int) *bits.Set {
 	return out
 }
 
-// loaded is what the fields that a Load's A has have in what reaches it.
-func (s *stage) loaded(i int) *bits.Set {
+// ofLoad is what the fields that a Load's A has have in what reaches it.
+func (s *stage) ofLoad(i int) {
 	from := bits.Of()
 	for _, j := range s.ahead[i] {
 		if s.nodes[j].Kind == api.NodeVar {
 			from = s.sets[j]
 		}
 	}
-	var l []*bits.Set
-	for _, j := range s.ahead[i] {
-		if n := s.nodes[j]; n.Kind != api.NodeVar && from.Has(n.B) {
-			l = append(l, s.sets[j])
-		}
-	}
-	return together(l...)
+	s.put(i, s.grown(i, func(j int) bool { return s.nodes[j].Kind != api.NodeVar && from.Has(s.nodes[j].B) })...)
 }
 
 // reaching is what reaches a node of a point: there is one memory ahead of it.
@@ -118,13 +122,13 @@ func (s *stage) has(v int) *bits.Set {
 	return s.sets[v]
 }
 
-func (s *stage) ofStore(i int) *bits.Set {
+func (s *stage) ofStore(i int) {
 	n := s.nodes[i]
 	x := s.stores[n.At]
-	return update.Store(s.reaching(i), s.has(x.value), s.has(x.to), n.B, s.single.Has(n.B))
+	s.put(i, update.Store(s.reaching(i), s.has(x.value), s.has(x.to), n.B, s.single.Has(n.B)))
 }
 
-func (s *stage) ofOut(i int) *bits.Set {
+func (s *stage) ofOut(i int) {
 	n := s.nodes[i]
 	k := s.numbers[n.At]
 	var exits []update.Exit
@@ -138,5 +142,5 @@ func (s *stage) ofOut(i int) *bits.Set {
 		}
 		exits = append(exits, x)
 	}
-	return update.Call(s.reaching(i), exits...)
+	s.put(i, update.Call(s.reaching(i), exits...))
 }

@@ -419,9 +419,14 @@ func same(t *testing.T, seed int, m *sites.Map, a, b interface {
 
 func TestAgainstWords(t *testing.T) {
 	sharper := 0
-	for seed := range 1500 {
-		p := sample.Program(seed, sample.Shape{Funcs: 3, Params: 2, Blocks: 4, Code: 5, Fields: 2})
-		m, _ := sites.New(p)
+	small := sample.Shape{Funcs: 3, Params: 2, Blocks: 4, Code: 5, Fields: 2}
+	for seed := range 1600 {
+		shape := small
+		if seed >= 1500 { // 821 calls functions by the very variables that these calls give something to
+			shape = sample.Shape{Funcs: 4, Params: 3, Blocks: 8, Code: 6, Fields: 3}
+			seed += 821 - 1500
+		}
+		m, _ := sites.New(sample.Program(seed, shape))
 		a := solve.Solve(m)
 		d := sample.Throw(seed)
 		var picks []int

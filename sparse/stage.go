@@ -17,13 +17,14 @@ import (
 // noVar is the number of null, and of a variable that there is not.
 const noVar = -1
 
-// site is a call: where it is, the variable by which it calls if it is an indirect one, the functions that it may enter by the pre-analysis, and the nodes of what it leaves behind.
+// site is a call: where it is, the variable by which it calls if it is an indirect one, the functions that it may enter by the pre-analysis, the nodes of what it leaves behind, and the functions that it was seen to enter.
 type site struct {
 	at       api.Point
 	indirect bool
 	by       int
 	fns      []int
 	outs     []int
+	entered  *bits.Set
 }
 
 // store is what is stored, and to what, by the numbers of variables.
@@ -31,9 +32,10 @@ type store struct {
 	value, to int
 }
 
-// way is an edge of the link of a call and a function, seen from one of its ends: the node at the other one.
+// way is an edge of the link of a call and a function, seen from one of its ends: the node at the other one, and how many things that had when it was asked last.
 type way struct {
 	node, call, fn int
+	asked          int
 }
 
 // stage is the second stage as it goes on.
@@ -51,6 +53,7 @@ type stage struct {
 	calls   []site
 	numbers map[api.Point]int // of calls
 	dials   map[int][]int     // the indirect calls by a variable
+	asked   [][]int           // how many things those ahead had when they were asked last
 	in, out map[int][]way
 	sets    []*bits.Set
 	steps   map[uint8]reckoning
@@ -91,13 +94,14 @@ func newStage(m *sites.Map, a *solve.Answer) *stage {
 // readNodes takes the graph's nodes, with its edges turned round.
 func (s *stage) readNodes() {
 	n := s.graph.Len()
-	s.ahead = make([][]int, n)
+	s.ahead, s.asked = make([][]int, n), make([][]int, n)
 	for i := range n {
 		node, _ := s.graph.Node(i)
 		s.nodes = append(s.nodes, node)
 		s.sets = append(s.sets, bits.Of())
 		for _, to := range s.graph.Succ(i) {
 			s.ahead[to] = append(s.ahead[to], i)
+			s.asked[to] = append(s.asked[to], 0)
 		}
 	}
 }
@@ -127,7 +131,7 @@ func (s *stage) define(at api.Point, x api.Instr) {
 // link takes a call, and its links with all functions that it may enter.
 func (s *stage) link(at api.Point, x api.Instr, fns []int) {
 	k := len(s.calls)
-	c := site{at: at, indirect: x.Op == api.ICall, by: s.variable(at.Func, x.A), fns: fns}
+	c := site{at: at, indirect: x.Op == api.ICall, by: s.variable(at.Func, x.A), fns: fns, entered: bits.Of()}
 	if c.indirect && c.by != noVar {
 		s.dials[c.by] = append(s.dials[c.by], k)
 	}
@@ -135,8 +139,8 @@ func (s *stage) link(at api.Point, x api.Instr, fns []int) {
 	s.numbers[at] = k
 	for _, f := range fns {
 		for _, e := range s.graph.Link(at, f) {
-			s.out[e[0]] = append(s.out[e[0]], way{e[1], k, f})
-			s.in[e[1]] = append(s.in[e[1]], way{e[0], k, f})
+			s.out[e[0]] = append(s.out[e[0]], way{node: e[1], call: k, fn: f})
+			s.in[e[1]] = append(s.in[e[1]], way{node: e[0], call: k, fn: f})
 		}
 	}
 }
@@ -173,14 +177,13 @@ func (s *stage) run(picks []int, budget int) (bool, int) {
 	return q.Len() == 0, q.Taken()
 }
 
-// step reckons a node's set anew. All that it hangs on only grows, so it has grown just if it has more.
+// step reckons a node's set, and lets wait what hangs on it.
 func (s *stage) step(q *queue.Queue, i int) {
-	was := s.sets[i]
-	now := s.steps[s.nodes[i].Kind](s, i)
-	if now.Len() <= was.Len() {
+	was := s.sets[i].Len()
+	s.steps[s.nodes[i].Kind](s, i)
+	if s.sets[i].Len() == was {
 		return
 	}
-	s.sets[i] = now
 	for _, to := range s.graph.Succ(i) {
 		q.Add(to)
 	}
@@ -189,22 +192,23 @@ func (s *stage) step(q *queue.Queue, i int) {
 			q.Add(w.node)
 		}
 	}
-	s.wakeCalls(q, i, now.Minus(was))
+	for _, k := range s.dials[i] {
+		s.wake(q, k)
+	}
 }
 
-// wakeCalls lets wait what hangs on the functions that calls by a variable enter only now.
-func (s *stage) wakeCalls(q *queue.Queue, v int, fresh *bits.Set) {
-	for _, k := range s.dials[v] {
-		for _, f := range s.calls[k].fns {
-			if !fresh.Has(s.sites.FuncObj(f)) {
-				continue
-			}
-			for _, i := range s.calls[k].outs {
-				q.Add(i)
-			}
-			for _, e := range s.graph.Link(s.calls[k].at, f) {
-				q.Add(e[1])
-			}
+// wake lets wait what hangs on the functions that an indirect call enters only now.
+func (s *stage) wake(q *queue.Queue, k int) {
+	c := s.calls[k]
+	for _, f := range c.fns {
+		if !s.enters(k, f) || !c.entered.Add(f) {
+			continue
+		}
+		for _, i := range c.outs {
+			q.Add(i)
+		}
+		for _, e := range s.graph.Link(c.at, f) {
+			q.Add(e[1])
 		}
 	}
 }
