@@ -107,6 +107,13 @@ func TestStops(t *testing.T) {
 }
 
 func TestRoom(t *testing.T) {
+	great := cell.New(api.MaxCells)
+	if v, s := great.Make(0, api.MaxFields+1); v != null || s != api.Full || great.Objs() != 0 {
+		t.Error("more than MaxFields")
+	}
+	if v, s := great.Make(0, api.MaxFields); v != addr(0, 0) || s != api.Goes {
+		t.Error("MaxFields")
+	}
 	for _, x := range [][2]int{{0, 0}, {-1, 0}, {math.MinInt, 0}, {70, 70}, {api.MaxCells, api.MaxCells}, {api.MaxCells + 1, api.MaxCells}, {math.MaxInt, api.MaxCells}} {
 		h := cell.New(x[0])
 		for {

@@ -181,6 +181,7 @@ func broken() []struct {
 		{api.BadEnd, at(1, 0, 0), one(x)},
 		{api.BadPhi, at(0, 0, 0), prog(fn("main", nil, block("e", phi, ret)))},
 		{api.BadPhi, at(0, 1, 2), prog(fn("main", nil, block("e", ret), block("a", phi, x, phi, ret)))},
+		{api.BadPhi, at(0, 1, 1), prog(fn("main", nil, block("e", ret), block("a", x, phi, ret)))},
 		{api.NoLabel, at(1, 0, 0), one(api.Instr{Op: api.Goto, Labels: []string{"x"}})},
 		{api.NoLabel, at(1, 0, 0), one(api.Instr{Op: api.Br, Labels: []string{"e", "x"}})},
 		{api.NoLabel, at(1, 1, 0), prog(fn("f", nil, block("g", ret)), fn("main", nil, block("e", ret), block("a", api.Instr{Op: api.Phi, Dst: "p", Args: []string{"null", "null"}, Labels: []string{"e", "g"}}, ret)))},
@@ -247,6 +248,7 @@ func TestNotBroken(t *testing.T) {
 		{api.Arity, prog(fn("f", param[:1]), fn("f", param[:2]), fn("main", nil, block("e", api.Instr{Op: api.Call, Fn: "f", Args: param[:1]})))},
 		{api.TwiceVar, prog(fn("main", nil, block("e", api.Instr{}, api.Instr{})), fn("f", []string{"x"}), fn("g", []string{"x"}))},
 		{api.NoVar, one(api.Instr{Op: api.Copy, A: "x", B: "null", Args: []string{"", "null"}}, api.Instr{Op: api.Null, Dst: "x"}, ret)},
+		{api.NoVar, prog(fn("main", nil, block("e", api.Instr{Op: api.Null, Dst: "x"})))},
 		{api.BadPhi, prog(fn("main", nil, block("e", ret), block("a", api.Instr{Op: api.Phi}, api.Instr{Op: api.Phi})))},
 	} {
 		if x.r == api.Sound {

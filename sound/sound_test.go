@@ -107,7 +107,7 @@ func TestManyIds(t *testing.T) {
 		p.Funcs[0].Blocks[0].Code = append(p.Funcs[0].Blocks[0].Code, append(l, api.Instr{Op: api.Ret})...)
 	}
 	sites(1023, 64)
-	end(api.Instr{Op: api.Alloca, Dst: "y", N: 63})
+	end(api.Instr{Op: api.Alloca, Dst: "y", N: 63}, api.Instr{Op: api.Field, Dst: "z", A: "y", N: 1})
 	if w := sound.Check(p); w.Rule != api.Sound {
 		t.Errorf("MaxIds things: %v", w)
 	}
