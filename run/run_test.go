@@ -70,6 +70,12 @@ func TestMoves(t *testing.T) {
 	if got, _ := run.Run(p, choices); got.Moves != api.MaxMoves || got.Stop != api.Done {
 		t.Errorf("the last move: %d moves, %d", got.Moves, got.Stop)
 	}
+	// What the machine tells behind the last move was seen, too.
+	choices = make([]int, api.MaxMoves)
+	choices[api.MaxMoves-3] = 1
+	if got, _ := run.Run(p, choices); got.Moves != api.MaxMoves || got.Stop != api.Choices || !slices.Contains(got.Facts, api.Fact{At: at(0, 2, 0)}) {
+		t.Errorf("behind the last move: %d moves, %d, %v", got.Moves, got.Stop, got.Facts)
+	}
 	p = parse(t, "func main() {\ne:\ngoto l\nl:\ngoto l\n}")
 	if got, _ := run.Run(p, nil); got.Moves != api.MaxMoves || got.Stop != api.Choices {
 		t.Errorf("a circle: %d moves, %d", got.Moves, got.Stop)
