@@ -312,9 +312,13 @@ func TestSamples(t *testing.T) {
 			case 0:
 				l = append(l, play.Cmd{Op: 'p', Text: text})
 			case 1:
-				l = append(l, play.Cmd{Op: 'k', Nums: d.Choices(d.Below(5))})
+				var picks []int
+				for range d.Below(30) {
+					picks = append(picks, d.Below(20)-2)
+				}
+				l = append(l, play.Cmd{Op: 'k', Nums: picks})
 			case 2:
-				l = append(l, play.Cmd{Op: 'b', Nums: []int{d.Below(3) * 40}})
+				l = append(l, play.Cmd{Op: 'b', Nums: []int{[]int{0, 60, 1 << 40}[d.Below(3)]}})
 			case 3, 4:
 				l = append(l, play.Cmd{Op: 'r'})
 			case 5:
