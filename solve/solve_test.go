@@ -58,6 +58,9 @@ func TestExample(t *testing.T) {
 	if !a.Has(3, 1) || a.Has(3, 0) || a.Has(3, -1) || a.Has(3, math.MaxInt) {
 		t.Error("Has")
 	}
+	if a.Steps() < 1 {
+		t.Error("no set took another one in")
+	}
 	isList(t, "the call", a.Callees(at(1, 0, 4)), 0)
 	for _, p := range []api.Point{at(1, 0, 3), at(1, 0, 9), at(-1, 0, 0), at(0, 0, 0)} {
 		isList(t, "what is no call", a.Callees(p))
@@ -207,6 +210,17 @@ func TestAgainstSlow(t *testing.T) {
 	}
 	for seed := range 30 {
 		m, e := sites.New(sample.Program(seed, sample.Shape{Funcs: 6, Params: 3, Blocks: 12, Code: 12, Fields: 6}))
+		if e != api.OK {
+			t.Fatal(e)
+		}
+		hold(t, m, seed)
+	}
+}
+
+// Circles of copies come to be while sets grow, too.
+func TestLateCircles(t *testing.T) {
+	for seed := range 6 {
+		m, e := sites.New(sample.Program(seed, sample.Shape{Funcs: 10, Params: 4, Blocks: 20, Code: 10, Fields: 4}))
 		if e != api.OK {
 			t.Fatal(e)
 		}

@@ -164,6 +164,18 @@ func TestWhole(t *testing.T) {
 	x.has("main", "y", "a", "b")
 }
 
+// A call that may enter two functions by the pre-analysis enters the one that is stored there.
+func TestSharperCalls(t *testing.T) {
+	x := ask(t, "func keep(a) {\ne:\nret a\n}\nfunc set(c) {\ne:\nstore c, c\nret null\n}\nfunc main() {\ne:\np = alloca 1\nq = alloca 1\nb = alloca 1\nk = addr keep\ns = addr set\nstore b, q\nstore k, p\ng = load p\nu = icall g(q)\nx = load q\nstore s, p\nh = load p\nv = icall h(q)\ny = load q\nret\n}", enough)
+	x.has("main", "x", "b")
+	x.has("main", "y", "q")
+	x.has("main", "u", "q")
+	x.has("main", "v")
+	if !slices.Equal(x.r.Callees(at(2, 0, 8)), []int{0}) || !slices.Equal(x.r.Callees(at(2, 0, 12)), []int{1}) || len(x.a.Callees(at(2, 0, 8))) != 2 {
+		t.Error("Callees")
+	}
+}
+
 func TestNil(t *testing.T) {
 	m := mapOf(t, "func main() {\ne:\nret\n}")
 	if sparse.Solve(nil, solve.Solve(m), nil, 9) != nil || sparse.Solve(m, nil, nil, 9) != nil {
