@@ -174,6 +174,19 @@ func TestSharperCalls(t *testing.T) {
 	if !slices.Equal(x.r.Callees(at(2, 0, 8)), []int{0}) || !slices.Equal(x.r.Callees(at(2, 0, 12)), []int{1}) || len(x.a.Callees(at(2, 0, 8))) != 2 {
 		t.Error("Callees")
 	}
+	// Picks may take what a call leaves long ahead of whom it enters.
+	d := sample.Throw(26)
+	for k := range 300 {
+		var picks []int
+		for range d.Below(60) {
+			picks = append(picks, d.Below(60))
+		}
+		r := sparse.Solve(x.m, x.a, picks, enough)
+		same(t, k, x.m, r, x.r)
+		if steps := newWords(x.m, x.a).run(picks); r.Steps() != steps {
+			t.Fatalf("picks %v: %d steps, want %d", picks, r.Steps(), steps)
+		}
+	}
 }
 
 func TestNil(t *testing.T) {
@@ -520,6 +533,14 @@ func TestPicksAndBudgets(t *testing.T) {
 						t.Fatalf("program %d: Mem of what is cut", seed)
 					}
 				}
+			}
+		}
+		if len(plain.Var(m.Vars())) > 0 {
+			t.Fatalf("program %d: a variable behind the last one", seed)
+		}
+		for o := range m.Objs() {
+			if plain.Has(m.Vars(), o) {
+				t.Fatalf("program %d: a variable behind the last one has %d", seed, o)
 			}
 		}
 		for v := range m.Vars() {
