@@ -17,8 +17,8 @@ import (
 // noVar is the number of null, and of a variable that there is not.
 const noVar = -1
 
-// site is a call: where it is, the variable by which it calls if it is an indirect one, the functions that it may enter by the pre-analysis, the nodes of what it leaves behind, and the functions that it was seen to enter.
-type site struct {
+// callSite is a call: where it is, the variable by which it calls if it is an indirect one, the functions that it may enter by the pre-analysis, the nodes of what it leaves behind, and the functions that it was seen to enter.
+type callSite struct {
 	at       api.Point
 	indirect bool
 	by       int
@@ -50,13 +50,13 @@ type stage struct {
 	defs    map[int]api.Instr // what defines a variable
 	stores  map[api.Point]store
 	bases   map[int]int // the field 0 of a variable's site
-	calls   []site
+	calls   []callSite
 	numbers map[api.Point]int // of calls
 	dials   map[int][]int     // the indirect calls by a variable
 	asked   [][]int           // how many things those ahead had when they were asked last
 	in, out map[int][]way
 	sets    []*bits.Set
-	steps   map[uint8]reckoning
+	how     map[uint8]reckoning
 }
 
 func newStage(m *sites.Map, a *solve.Answer) *stage {
@@ -65,7 +65,7 @@ func newStage(m *sites.Map, a *solve.Answer) *stage {
 	notes := chi.Of(m, a, c, sums)
 	meets := memphi.Of(m, notes)
 	reach := mssa.Of(m, notes, meets)
-	s := &stage{sites: m, reach: reach, graph: vfg.Of(m, c, notes, meets, reach), single: bits.Of(), steps: reckonings(),
+	s := &stage{sites: m, reach: reach, graph: vfg.Of(m, c, notes, meets, reach), single: bits.Of(), how: reckonings(),
 		defs: map[int]api.Instr{}, stores: map[api.Point]store{}, bases: map[int]int{}, numbers: map[api.Point]int{}, dials: map[int][]int{}, in: map[int][]way{}, out: map[int][]way{}}
 	for f := range m.Funcs() {
 		s.mods = append(s.mods, bits.Of(sums.Mod(f)...))
@@ -131,7 +131,7 @@ func (s *stage) define(at api.Point, x api.Instr) {
 // link takes a call, and its links with all functions that it may enter.
 func (s *stage) link(at api.Point, x api.Instr, fns []int) {
 	k := len(s.calls)
-	c := site{at: at, indirect: x.Op == api.ICall, by: s.variable(at.Func, x.A), fns: fns, entered: bits.Of()}
+	c := callSite{at: at, indirect: x.Op == api.ICall, by: s.variable(at.Func, x.A), fns: fns, entered: bits.Of()}
 	if c.indirect && c.by != noVar {
 		s.dials[c.by] = append(s.dials[c.by], k)
 	}
@@ -180,7 +180,7 @@ func (s *stage) run(picks []int, budget int) (bool, int) {
 // step reckons a node's set, and lets wait what hangs on it.
 func (s *stage) step(q *queue.Queue, i int) {
 	was := s.sets[i].Len()
-	s.steps[s.nodes[i].Kind](s, i)
+	s.how[s.nodes[i].Kind](s, i)
 	if s.sets[i].Len() == was {
 		return
 	}
